@@ -141,7 +141,7 @@ func TestRunesByExample(t *testing.T) {
 	}
 }
 
-// eachText calls f with every text of at most three edge bytes and every one of four that begins as a character of four could.
+// eachText calls f with every text of at most three edge bytes, and with those of four that begin with a U+000D or as a long character could.
 func eachText(f func(b []byte)) {
 	f(nil)
 	for _, w := range edgeBytes {
