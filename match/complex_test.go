@@ -81,7 +81,7 @@ func TestAllRows(t *testing.T) {
 	}
 }
 
-// TestFourParts: all complex selectors of four Parts, of all trees of six elements, each with some of the ways of tagging them.
+// TestFourParts: all complex selectors of four Parts, of all trees of six elements, each of them tagged in one way.
 func TestFourParts(t *testing.T) {
 	four := rows(4)
 	for i := range shaped(t, 6, 0) {
