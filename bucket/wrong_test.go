@@ -187,17 +187,18 @@ func TestManyRules(t *testing.T) {
 	}
 }
 
-// TestManyWords: as many words as an attribute's value may have.
+// TestManyWords: as many words of two bytes as an attribute's value may have, all of them different.
 func TestManyWords(t *testing.T) {
 	var texts, words []string
-	for i := range 26 * 10 {
-		word := string(rune('a'+i%26)) + fmt.Sprint(i/26)
+	for i := range 333 {
+		word := string([]byte{byte('a' + i%26), byte('a' + i/26)})
 		texts = append(texts, "."+word)
 		words = append([]string{word}, words...)
 	}
 	l := rules(t, texts...)
-	o := begin(t, "a").set(1, "class", strings.Join(words, "\n"))
-	got := Make(l).Pick(o.doc, 1)
-	is(t, "all", len(got), len(l))
+	value := strings.Join(words, "\n")
+	is(t, "bytes", len(value), 998)
+	o := begin(t, "a").set(1, "class", value)
+	is(t, "all", len(Make(l).Pick(o.doc, 1)), len(l))
 	picks(t, "all", Make(l), l, o)
 }
