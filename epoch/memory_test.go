@@ -96,3 +96,12 @@ func TestRoomIsNotTold(t *testing.T) {
 		}
 	}
 }
+
+// TestNothingIsLeft: when nothing waits any more, no memory stands for it.
+func TestNothingIsLeft(t *testing.T) {
+	for many := range 40 {
+		x := filled(many)
+		x.Reclaim()
+		is(t, fmt.Sprint("room ", many), cap(x.waits), 0)
+	}
+}
